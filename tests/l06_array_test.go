@@ -693,13 +693,12 @@ func (m memory) addValue(v impl.Value) int {
 }
 
 func (m memory) meets(other memory) bool {
-	for p := range m.items {
-		if other.items[p] {
-			return true
-		}
-	}
-	for p := range m.texts {
-		if other.texts[p] {
+	return overlap(m.items, other.items) || overlap(m.texts, other.texts)
+}
+
+func overlap[P comparable](a, b map[P]bool) bool {
+	for p := range a {
+		if b[p] {
 			return true
 		}
 	}
