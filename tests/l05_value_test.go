@@ -152,12 +152,24 @@ func modelIdentical(a, b impl.Value) bool {
 	return true
 }
 
-// brief shows a value, but not all of a large one.
+// brief shows a value, but not all of a large or a deep one.
 func brief(v impl.Value) string {
-	if v.Kind == impl.KindArray && len(v.Items) > 5 {
-		return fmt.Sprintf("an array of %d items with the Next %d", len(v.Items), v.Next)
+	if len(v.Items) > 5 {
+		return fmt.Sprintf("a value of the Kind %d with %d items and the Next %d", v.Kind, len(v.Items), v.Next)
 	}
-	return fmt.Sprintf("%.300s", fmt.Sprintf("%+v", v))
+	return fmt.Sprintf("%.300s", fmt.Sprintf("%+v", shallow(v, 5)))
+}
+
+// shallow leaves out what lies deeper, and marks where: some values have no end.
+func shallow(v impl.Value, depth int) impl.Value {
+	if len(v.Items) > 5 || depth == 0 && len(v.Items) > 0 {
+		return impl.Value{Kind: v.Kind, Num: v.Num, Str: fmt.Sprintf("%s and %d items", v.Str, len(v.Items)), Next: v.Next}
+	}
+	v.Items = slices.Clone(v.Items)
+	for i := range v.Items {
+		v.Items[i].Val = shallow(v.Items[i].Val, depth-1)
+	}
+	return v
 }
 
 func checkKey(t *testing.T, k impl.Key, want bool) {
